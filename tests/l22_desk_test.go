@@ -2,7 +2,11 @@ package tests
 
 import (
 	"fmt"
+	"go/ast"
+	"go/parser"
+	"go/token"
 	"math"
+	"path/filepath"
 	"regexp"
 	"runtime"
 	"slices"
@@ -1420,5 +1424,104 @@ func TestDeskNeverPanics(t *testing.T) {
 	huge := impl.Desk{Net: impl.Net{Nodes: 2, Edges: make([]impl.Edge, 100000)}, Table: make([]impl.Trip, 100000), Seats: impl.Train{Held: make([]impl.Booking, 100000)}, Yard: impl.Sidings{Room: make([]int, 100000), Rows: make([][]int, 100000)}}
 	if then, told := impl.DoLine(huge, "show net"); told != "no" || impl.DeskOk(huge) || !sameDesk(then, huge) {
 		t.Error("a huge desk")
+	}
+}
+
+// programText has the declarations of the program by their names: functions, methods, and what stands at package level.
+func programText(t *testing.T) map[string][]ast.Node {
+	t.Helper()
+	files, err := filepath.Glob("../impl/*.go")
+	if err != nil || len(files) == 0 {
+		t.Fatal(files, err)
+	}
+	named := map[string][]ast.Node{}
+	for _, name := range files {
+		file, err := parser.ParseFile(token.NewFileSet(), name, nil, parser.SkipObjectResolution)
+		if err != nil {
+			t.Fatal(err)
+		}
+		for _, d := range file.Decls {
+			switch x := d.(type) {
+			case *ast.FuncDecl:
+				named[x.Name.Name] = append(named[x.Name.Name], x)
+			case *ast.GenDecl:
+				for _, s := range x.Specs {
+					if v, ok := s.(*ast.ValueSpec); ok {
+						for _, n := range v.Names {
+							named[n.Name] = append(named[n.Name], v)
+						}
+					}
+				}
+			}
+		}
+	}
+	return named
+}
+
+// reachedFrom has all names that the declaration of a name leads to, by names alone: rather one too many than one too few.
+func reachedFrom(named map[string][]ast.Node, name string) map[string]bool {
+	reached := map[string]bool{}
+	work := []string{name}
+	for len(work) > 0 {
+		first := work[0]
+		work = work[1:]
+		for _, n := range named[first] {
+			ast.Inspect(n, func(n ast.Node) bool {
+				if id, ok := n.(*ast.Ident); ok && !reached[id.Name] {
+					reached[id.Name] = true
+					work = append(work, id.Name)
+				}
+				return true
+			})
+		}
+	}
+	return reached
+}
+
+// textsIn has the texts that are written out in the declaration of a name, sorted.
+func textsIn(t *testing.T, named map[string][]ast.Node, name string) []string {
+	t.Helper()
+	if len(named[name]) != 1 {
+		t.Fatalf("%s stands %d times", name, len(named[name]))
+	}
+	var texts []string
+	ast.Inspect(named[name][0], func(n ast.Node) bool {
+		if lit, ok := n.(*ast.BasicLit); ok && lit.Kind == token.STRING {
+			text, err := strconv.Unquote(lit.Value)
+			if err != nil {
+				t.Fatal(err)
+			}
+			texts = append(texts, text)
+		}
+		return true
+	})
+	slices.Sort(texts)
+	return texts
+}
+
+// TestRegistryStandsBeside asks the program's text, since no answer hangs on the registry: start-up fills it, once, with all
+// commands; Session alone reads it; and what a line does is told without it.
+func TestRegistryStandsBeside(t *testing.T) {
+	named := programText(t)
+	start := reachedFrom(named, "init")
+	for _, name := range []string{"commands", "commandsMade", "Once", "Do", "makeCommands", "commandNamed"} {
+		if !start[name] {
+			t.Error("start-up has no", name)
+		}
+	}
+	for _, name := range []string{"DeskOk", "NewDesk", "DoLine", "Session", "Replay"} {
+		reached := reachedFrom(named, name)
+		for _, kept := range []string{"commands", "commandsMade"} {
+			if reached[kept] != (name == "Session") {
+				t.Errorf("%s reads %s: %v", name, kept, reached[kept])
+			}
+		}
+	}
+	wanted := []string{"nodes", "edge", "cut", "way", "trip", "drop", "clash", "settle", "board", "go", "day", "late", "fare", "book", "unbook", "shunt", "hump", "form", "turn", "show"}
+	slices.Sort(wanted)
+	for _, name := range []string{"makeCommands", "commandNamed"} {
+		if texts := textsIn(t, named, name); !slices.Equal(texts, wanted) {
+			t.Error(name, texts)
+		}
 	}
 }
